@@ -28,7 +28,7 @@ func Precedence(op string) int {
 	switch {
 	case op == "":
 		return -1
-	case Assigns(op):
+	case signs(op) && Assigns(op): // Assigns asks of any text, "a=" too, but only an operator assigns
 		return 0
 	case class(op[0]) == letter:
 		return 1
@@ -39,6 +39,16 @@ func Precedence(op string) int {
 		}
 	}
 	return -1
+}
+
+// signs reports whether a text consists of the bytes of operators.
+func signs(s string) bool {
+	for i := range len(s) {
+		if class(s[i]) != sign {
+			return false
+		}
+	}
+	return true
 }
 
 // Right reports whether an operator associates to the right.

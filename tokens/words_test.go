@@ -32,18 +32,18 @@ func TestPrecedence(t *testing.T) {
 		words string
 		want  int
 	}{
-		{"+= -= *= /= %= &= |= ^= ~= ?= := <<= >>= !== <== a= _=", 0},
-		{"a z A Z _ max _1 def x+", 1},
-		{"| || |>", 2},
+		{"+= -= *= /= %= &= |= ^= ~= ?= := <<= >>= !== <== >== <:= ?:=", 0},
+		{"a z A Z _ max _1 def x+ a= _= a+= Z== _1=", 1},
+		{"| || |> |a=", 2},
 		{"^ ^^", 3},
 		{"& && &:", 4},
 		{"= ! == != === => !!", 5},
 		{"< > <= >= << >> <- <: >:", 6},
 		{": :: :+", 7},
-		{"+ - ++ -> +:", 8},
+		{"+ - ++ -> +: +a= +_= -1= +.= +\xbc= +ä=", 8},
 		{"* / % ** /%", 9},
-		{"~ ? ~> ?:", 10},
-		{"( ) [ ] { } , . ; @ ' \" $ # \\ ` 1 9x \x00 \x7f \xff ä", -1},
+		{"~ ? ~> ?: ?(=", 10},
+		{"( ) [ ] { } , . ; @ ' \" $ # \\ ` 1 9x \x00 \x7f \xff ä \xbc= ä= \x00= \x7f= 5= 9+= (= )= {= ;= .= @= $= #+= \"= '=", -1},
 	} {
 		for _, w := range strings.Fields(c.words) {
 			if got := Precedence(w); got != c.want {
@@ -51,9 +51,30 @@ func TestPrecedence(t *testing.T) {
 			}
 		}
 	}
-	for _, w := range []string{"", " ", " +", "\t", "\n"} {
+	for _, w := range []string{"", " ", " +", "\t", "\n", " =", " +=", "\t=", "\n+="} {
 		if got := Precedence(w); got != -1 {
 			t.Errorf("Precedence(%q) = %d", w, got)
+		}
+	}
+}
+
+// P1.4: a first byte decides in front of = too; only operators are assignment
+// operators.
+func TestPrecedenceInFrontOfEquals(t *testing.T) {
+	for b := range 256 {
+		want := -1
+		switch c := string([]byte{byte(b)}); {
+		case strings.Contains("ABCDEFGHIJKLMNOPQRSTUVWXYZ_abcdefghijklmnopqrstuvwxyz", c):
+			want = 1
+		case strings.Contains("=!", c):
+			want = 5
+		case strings.Contains("<>", c):
+			want = 6
+		case strings.Contains("+-*/%&|^~:?", c):
+			want = 0
+		}
+		if op := string([]byte{byte(b), '='}); Precedence(op) != want {
+			t.Errorf("Precedence(%q) = %d; want %d", op, Precedence(op), want)
 		}
 	}
 }
