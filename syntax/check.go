@@ -99,6 +99,8 @@ func keepsFurther(n *Node) bool {
 	switch n.Kind {
 	case SType:
 		return n.Kids[4].Kind == SNone || n.Kids[2].Kind == SNone && n.Kids[3].Kind == SNone
+	case SParent: // its Num says whether it has arguments; a list of them may be empty
+		return n.Num == 1 || len(n.Kids) == 1
 	case XApply:
 		return namedLast(n.Kids[1:])
 	case XString:

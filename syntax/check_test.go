@@ -224,6 +224,9 @@ func TestOrderOfFaults(t *testing.T) {
 		{`(XTrue 1 (XThis))`, api.ErrInvalid},
 		{`(XTrue (XThis))`, api.ErrForm},
 		{`(SNone (SNone))`, api.ErrForm},
+		{`(SParent "a" 2 (TName "A") (XThis))`, api.ErrRange},
+		{`(SParent "a" (TName "A") (XThis))`, api.ErrInvalid},
+		{`(SParent (TName "A") (XThis))`, api.ErrForm},
 	} {
 		wantCheck(t, c.form, shape(t, c.form), 0, c.code)
 	}
@@ -304,9 +307,23 @@ func TestFurtherRules(t *testing.T) {
 		{`(PAlt (PWild) (PAlt (PWild) (PWild)))`, 0, api.ErrForm},
 		{`(PAlt (PApply "A" (PAlt (PWild) (PWild))) (PWild))`, 0, api.OK},
 		{`(PAlt (PWild))`, 0, api.ErrForm},
-		// Parents with arguments, with or without any.
+		// A parent has arguments just with the Num 1; a list of them may be empty.
+		{`(SParent (TName "A"))`, 0, api.OK},
+		{`(SParent (TName "A") (XInt 1))`, 0, api.ErrForm},
+		{`(SParent (TName "A") (XInt 1) (XInt 2))`, 0, api.ErrForm},
+		{`(SParent (TName "A") (TName "B"))`, 0, api.ErrForm},
+		{`(SParent)`, 0, api.ErrForm},
+		{`(SParent 1)`, 0, api.ErrForm},
 		{`(SParent 1 (TName "A"))`, 0, api.OK},
+		{`(SParent 1 (TName "A") (XInt 1))`, 0, api.OK},
 		{`(SParent 1 (TName "A") (XInt 1) (XInt 2))`, 0, api.OK},
+		{`(SParent 1 (TName "A") (TName "B"))`, 0, api.ErrForm},
+		{`(SParent 1 (TName "A") (XNamed "a" (XInt 1)))`, 0, api.ErrForm},
+		{`(SParent 1 (XInt 1))`, 0, api.ErrForm},
+		{`(SParents (SParent (TName "A")) (SParent (TName "B") (XInt 1)))`, 3, api.ErrForm},
+		{`(XNew (SParents (SParent (TName "A") (XInt 1))) (SNone))`, 2, api.ErrForm},
+		{`(SParent (TName "1") (XInt 1))`, 0, api.ErrForm},
+		{`(SParent 1 (TName "1") (XInt 1))`, 1, api.ErrName},
 	} {
 		wantCheck(t, c.form, shape(t, c.form), c.at, c.code)
 	}

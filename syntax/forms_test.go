@@ -41,7 +41,7 @@ var rows = map[int]string{
 	SParams:      "SParam" + anyTimes,
 	SParam:       "SMods" + aType + exprOrNone,
 	SParents:     "SParent" + anyTimes,
-	SParent:      aType + anExpression + anyTimes,
+	SParent:      aType,
 	SBody:        aStatement + anyTimes,
 	TSelect:      "(XName|XThis|XSelect)",
 	TApply:       aType + aType + someTimes,
@@ -87,13 +87,17 @@ var rows = map[int]string{
 	PAlt:         "(PBind|" + patterns + ")(PBind|" + patterns + ")" + someTimes,
 }
 
+// withArguments is the row of a SParent with the Num 1; rows has that with 0.
+const withArguments = aType + anExpression + anyTimes
+
 var kindWord = regexp.MustCompile("[A-Z]+[a-zA-Z]+")
 
 // letterOf is a letter for a kind, so that a list of kids is a text.
 func letterOf(kind int) string { return string(rune(0x4e00 + kind)) }
 
-func rowOf(kind int) *regexp.Regexp {
-	row := kindWord.ReplaceAllStringFunc(rows[kind], func(w string) string { return letterOf(kindNamed(w)) })
+// compiled returns a row as a regular expression over the letters of kinds.
+func compiled(row string) *regexp.Regexp {
+	row = kindWord.ReplaceAllStringFunc(row, func(w string) string { return letterOf(kindNamed(w)) })
 	return regexp.MustCompile("^(" + strings.ReplaceAll(row, " ", "") + ")$")
 }
 
@@ -145,6 +149,27 @@ func (c *formChecker) vary(kinds []int) {
 	}
 }
 
+// compare compares Check of a node, with all kinds of kids, with a row.
+func (c *formChecker) compare(n Node, row string) {
+	c.row, c.parent, c.right, c.wrong = compiled(row), n, 0, 0
+	var kids []int
+	for _, x := range n.Kids {
+		kids = append(kids, x.Kind)
+	}
+	c.vary(kids)
+	for x := range Kinds { // a kid at each place, and one more
+		for y := range Kinds {
+			c.try([]int{x, y})
+		}
+	}
+	for _, more := range longer[n.Kind] {
+		c.vary(more)
+	}
+	if c.right == 0 || c.wrong < Kinds-1 {
+		c.t.Errorf("%s: only %d right lists, %d wrong ones", Name(n.Kind), c.right, c.wrong)
+	}
+}
+
 // P2.1: the rows of the table: Kids of all kinds, at all places.
 func TestForms(t *testing.T) {
 	c := formChecker{t: t}
@@ -153,24 +178,11 @@ func TestForms(t *testing.T) {
 		wantCheck(t, samples[k], c.samples[k], 0, api.OK)
 	}
 	for k := range Kinds {
-		c.row, c.parent, c.right, c.wrong = rowOf(k), c.samples[k], 0, 0
-		var kids []int
-		for _, x := range c.samples[k].Kids {
-			kids = append(kids, x.Kind)
-		}
-		c.vary(kids)
-		for x := range Kinds { // a kid at each place, and one more
-			for y := range Kinds {
-				c.try([]int{x, y})
-			}
-		}
-		for _, more := range longer[k] {
-			c.vary(more)
-		}
-		if c.right == 0 || c.wrong < Kinds-1 {
-			t.Errorf("%s: only %d right lists, %d wrong ones", Name(k), c.right, c.wrong)
-		}
+		c.compare(c.samples[k], rows[k])
 	}
+	parent := c.samples[SParent]
+	parent.Num = 1
+	c.compare(parent, withArguments)
 }
 
 // longer has lists of kids in which all is there that may be left out, and what
@@ -241,6 +253,9 @@ func TestRepeats(t *testing.T) {
 		front, kids, back := nodesOf(t, c.front), nodesOf(t, c.kids), nodesOf(t, c.back)
 		for _, times := range []int{0, 1, 2, 3, 4, 5, 199, 200, 201, 300} {
 			n := sample(t, c.kind)
+			if c.kind == SParent { // with the Num 0 it has no arguments at all
+				n.Num = 1
+			}
 			n.Kids = slices.Concat(front, slices.Repeat(kids, times), back)
 			want := api.OK
 			if times < c.least || times > c.most {

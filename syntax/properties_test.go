@@ -127,6 +127,10 @@ func (m *maker) dress(n *Node) {
 // correct makes right what the recipes do not say.
 func (m *maker) correct(n *Node) {
 	switch n.Kind {
+	case SParent:
+		if len(n.Kids) > 1 {
+			n.Num = 1
+		}
 	case SExtension:
 		for i := range n.Kids[2:] {
 			n.Kids[2+i].Num = 0

@@ -33,6 +33,10 @@ func TestText(t *testing.T) {
 	wantForm(t, Node{Kind: XLong, Num: math.MaxInt64}, `(XLong 9223372036854775807)`)
 	wantForm(t, Node{Kind: STParam, Text: "A", Num: -1, Kids: []Node{{}, {}}}, `(STParam "A" -1 (SNone) (SNone))`)
 	wantForm(t, Node{Kind: SVal, Text: "a", Num: 2, Kids: []Node{{Kind: SMods, Num: 4096}, {}, x}}, `(SVal "a" 2 (SMods 4096) (SNone) (XName "x"))`)
+	a := Node{Kind: TName, Text: "A"}
+	wantForm(t, Node{Kind: SParent, Kids: []Node{a}}, `(SParent (TName "A"))`)
+	wantForm(t, Node{Kind: SParent, Num: 1, Kids: []Node{a}}, `(SParent 1 (TName "A"))`)
+	wantForm(t, Node{Kind: SParent, Num: 1, Kids: []Node{a, x}}, `(SParent 1 (TName "A") (XName "x"))`)
 	wantForm(t, Node{Kind: XString}, `(XString)`)
 	wantForm(t, Node{Kind: XBlock, Kids: []Node{}}, `(XBlock)`)
 	for k := range Kinds {
@@ -73,6 +77,7 @@ func TestTextErrors(t *testing.T) {
 		{`(XQuote (XInt -1))`, api.ErrRange},
 		{`(XThis 1)`, api.ErrInvalid},
 		{`(SVal "a" (SMods) (SNone))`, api.ErrForm},
+		{`(SParent (TName "A") (XInt 1))`, api.ErrForm},
 	} {
 		wantTextError(t, c.form, shape(t, c.form), c.code)
 	}
