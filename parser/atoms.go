@@ -108,6 +108,7 @@ func (p *parser) parenthesized() syntax.Node {
 		n = node(syntax.XTyped, at, n, p.typ())
 	}
 	p.needMark(")")
+	n.At = at // the parentheses belong to its text
 	return n
 }
 

@@ -22,6 +22,15 @@ func (s *source) inner(make func() syntax.Node) syntax.Node {
 	return n
 }
 
+// parentheses makes something in parentheses, which belong to its text.
+func (s *source) parentheses(make func() syntax.Node) syntax.Node {
+	at := s.word("(")
+	n := s.inner(make)
+	n.At = at
+	s.word(")")
+	return n
+}
+
 func (s *source) none() syntax.Node { return node(syntax.SNone, s.next()) }
 
 // list makes items with commas between them.
@@ -345,6 +354,7 @@ func (s *source) typ() syntax.Node {
 	case 2:
 		t := s.inner(s.orType)
 		if s.items[at].text == "(" && s.closesAt(at, s.next()-1) {
+			t.At = at + 1 // the parentheses are those of the function
 			s.word("=>")
 			return node(syntax.TFunction, at, t, s.inner(s.typ))
 		}
@@ -407,9 +417,7 @@ func (s *source) simpleType() syntax.Node {
 	var n syntax.Node
 	switch k := s.dice.roll(6); {
 	case k == 0 && !s.leaf():
-		s.word("(")
-		n = s.inner(s.typ)
-		s.word(")")
+		n = s.parentheses(s.typ)
 	case k < 3:
 		n = named(syntax.TName, s.upper(), at)
 		s.word(n.Text)
@@ -481,10 +489,7 @@ func (s *source) onePattern(free bool) syntax.Node {
 		s.word("(", ")")
 		return node(syntax.PLiteral, at, node(syntax.XUnit, at))
 	case k == 4 && free && !s.leaf():
-		s.word("(")
-		n := s.inner(s.pattern)
-		s.word(")")
-		return n
+		return s.parentheses(s.pattern)
 	case k == 5 && free:
 		name := s.dice.pick("_", "a", "B")
 		s.word(name, ":")

@@ -146,12 +146,7 @@ func (s *source) enumerators() []syntax.Node {
 
 func (s *source) tryExpr() syntax.Node {
 	if s.dice.roll(3) == 0 { // one case, in parentheses: behind it statements would be read
-		s.word("(")
-		n := node(syntax.XTry, s.word("try"), s.inner(s.closed))
-		s.word("catch")
-		n.Kids = append(n.Kids, node(syntax.SCases, s.next(), s.oneCase()), s.none())
-		s.word(")")
-		return n
+		return s.parentheses(s.tryCase)
 	}
 	n := node(syntax.XTry, s.word("try"), s.inner(s.closed))
 	cases := node(syntax.SCases, s.next())
@@ -169,6 +164,14 @@ func (s *source) tryExpr() syntax.Node {
 	s.put(item{kind: gap})
 	s.word("finally")
 	n.Kids = append(n.Kids, s.inner(s.expr))
+	return n
+}
+
+// tryCase makes try with one case.
+func (s *source) tryCase() syntax.Node {
+	n := node(syntax.XTry, s.word("try"), s.inner(s.closed))
+	s.word("catch")
+	n.Kids = append(n.Kids, node(syntax.SCases, s.next(), s.oneCase()), s.none())
 	return n
 }
 
@@ -368,15 +371,9 @@ func (s *source) atom() syntax.Node {
 	case 6:
 		return s.interpolated()
 	case 7:
-		s.word("(")
-		n := s.inner(s.newExpr)
-		s.word(")")
-		return n
+		return s.parentheses(s.newExpr)
 	}
-	s.word("(")
-	n := s.inner(s.expr)
-	s.word(")")
-	return n
+	return s.parentheses(s.expr)
 }
 
 func (s *source) newExpr() syntax.Node {

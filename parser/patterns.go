@@ -121,6 +121,7 @@ func (p *parser) onePattern() syntax.Node {
 	}
 	n := p.pattern()
 	p.needMark(")")
+	n.At = t.At // the parentheses belong to its text
 	return n
 }
 

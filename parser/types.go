@@ -157,9 +157,11 @@ func joined(kind int, operands []syntax.Node) syntax.Node {
 // simpleType reads a type without operators, outside of brackets.
 func (p *parser) simpleType() syntax.Node {
 	var n syntax.Node
-	if p.skipMark("(") {
+	if p.mark("(") {
+		at := p.needMark("(")
 		n = p.typ()
 		p.needMark(")")
+		n.At = at // the parentheses belong to its text
 	} else {
 		n = p.typePath()
 	}
