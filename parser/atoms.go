@@ -127,7 +127,7 @@ func (p *parser) super() syntax.Node {
 func (p *parser) newExpr() syntax.Node {
 	at := p.needKey("new")
 	parents := p.left(syntax.SParents)
-	parents.Kids = separated(p.parent, p.with)
+	parents.Kids = separated(p.newParent, p.with)
 	if p.mark("{") || p.mark(":") && p.behind().Kind == tokens.Indent {
 		return node(syntax.XNew, at, parents, p.body(p.members))
 	}

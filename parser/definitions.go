@@ -249,9 +249,14 @@ func (p *parser) with() bool { return p.skipKey("with") }
 
 func (p *parser) withOrComma() bool { return p.with() || p.comma() }
 
-// parent reads a parent, perhaps with arguments.
-func (p *parser) parent() syntax.Node {
-	t := p.simpleType()
+// parent reads a parent of a class, perhaps with arguments.
+func (p *parser) parent() syntax.Node { return p.constructed(p.simpleType()) }
+
+// newParent reads a parent behind new.
+func (p *parser) newParent() syntax.Node { return p.constructed(p.newType()) }
+
+// constructed reads the arguments of a parent, if it has any.
+func (p *parser) constructed(t syntax.Node) syntax.Node {
 	n := node(syntax.SParent, t.At, t)
 	if p.skipMark("(") {
 		n.Num = 1

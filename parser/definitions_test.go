@@ -84,6 +84,10 @@ func TestDefinitions(t *testing.T) {
 			`(SUnit (SClass "A" (SMods) (SNames) (SLists) (SParents (SParent 1 (TName "B")) (SParent 1 (TName "C") (XName "d")) (SParent 1 (TApply (TName "E") (TName "F")) (XName "g") (XInfix "+" (XName "h") (XName "i"))) (SParent (TName "J"))) (SNone)))`},
 		{Parse, `class A extends a.B[C](d)`,
 			`(SUnit (SClass "A" (SMods) (SNames) (SLists) (SParents (SParent 1 (TApply (TSelect "B" (XName "a")) (TName "C")) (XName "d"))) (SNone)))`},
+		{Parse, `val x = new A.+`,
+			`(SUnit (SVal "x" (SMods) (SNone) (XSelect "+" (XNew (SParents (SParent (TName "A"))) (SNone)))))`},
+		{Parse, `class A extends B(new C.+)`,
+			`(SUnit (SClass "A" (SMods) (SNames) (SLists) (SParents (SParent 1 (TName "B") (XSelect "+" (XNew (SParents (SParent (TName "C"))) (SNone))))) (SNone)))`},
 		// def
 		{Parse, `def f`,
 			`(SUnit (SDef "f" (SMods) (SNames) (SLists) (SNone) (SNone)))`},

@@ -60,6 +60,7 @@ func TestFaultsOfClasses(t *testing.T) {
 		// parents
 		"class A extends @@", "class A extends @@{ }", "class A extends B @@C", "class A extends B, @@{ }", "class A extends B with @@with C", "class A extends B @@| C",
 		"class A extends B(@@using c)", "class A extends B(c)@@(d)", "class A extends B(c = @@)", "class A extends B(c, @@)", "class A extends B @@extends C", "class A extends (B@@, C)",
+		"class A extends B.@@+", "class A extends B.c.@@+ { }", "class A extends this.B.@@::", "object A extends B with C.@@*", "enum A { case B extends C.@@+ }", "class A extends @@new B.+",
 		// body
 		"class A { b @@c }", "class A { @@, }", "class A { case @@}", "class A { case @@B }", "class A { b; @@else }", "class A:\n  b @@c", "class A { private @@}",
 		// enumcases
@@ -169,6 +170,8 @@ func TestFaultsOfOperands(t *testing.T) {
 		// atom
 		"(@@:)", "(a @@b)", "(a: A @@b)", "(a: @@)", "(a@@; b)", "(@@; a)", "super@@", "super@@(a)", "super[@@]", "super[@@this].a", "super[A@@, B].a", "super[A]@@", "super.@@", "super.@@this",
 		"new @@", "new @@{ }", "new @@1", "new A @@B", "new A with @@", "new A@@, B", "new A(b @@c)", "new A @@: b", "new A { b @@c }", "new A(@@using b)",
+		"new A.@@", "new A.@@1", "new A.@@=", "new A.@@(b)", "new A.@@this", "new A.b.@@", "new A.b.@@[B]", "new A with B.@@", "new A.+.@@", "new A.+ @@with B", "new A.+ @@b", "new A. @@{ }", "new A.type.@@",
+		"new this.@@+", "new this@@", "new @@+", "new (A.@@+)", "new A[B.@@+]", "new A with @@+", "new A.type.@@1", "(new A: B.@@+)", "a[A.@@+]", "(a: A) => (b: B.@@+)", "(a: A.@@+) => b",
 		"'{ a @@b }", "'{ @@, }", "${ a @@b }",
 		`s"a${@@}"`, `s"a${b @@c}"`, `s"a${b@@; c}"`, `s"a$@@if"`, `s"a${ @@val b }"`, `s"$@@null"`, `s"a" @@b`,
 	})

@@ -332,7 +332,7 @@ func (s *source) atom() syntax.Node {
 		s.word(name)
 		return named(syntax.XName, name, at)
 	}
-	switch s.dice.roll(9) {
+	switch s.dice.roll(10) {
 	case 0:
 		return node(syntax.XThis, s.word("this"))
 	case 1:
@@ -372,6 +372,11 @@ func (s *source) atom() syntax.Node {
 		return s.interpolated()
 	case 7:
 		return s.parentheses(s.newExpr)
+	case 8:
+		n := s.inner(s.newExpr)
+		op := s.dice.pick("+", "::", "*")
+		s.word(".", op)
+		return named(syntax.XSelect, op, at, n)
 	}
 	return s.parentheses(s.expr)
 }

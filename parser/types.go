@@ -155,7 +155,20 @@ func joined(kind int, operands []syntax.Node) syntax.Node {
 }
 
 // simpleType reads a type without operators, outside of brackets.
-func (p *parser) simpleType() syntax.Node {
+func (p *parser) simpleType() syntax.Node { return p.applied(p.point) }
+
+// newType reads a simple type behind new.
+func (p *parser) newType() syntax.Node { return p.applied(p.typePoint) }
+
+// point reads a point.
+func (p *parser) point() bool { return p.skipMark(".") }
+
+// typePoint reads a point of the type behind new. One with an operator behind
+// it is none: it selects from the new object.
+func (p *parser) typePoint() bool { return p.behind().Kind != tokens.Op && p.point() }
+
+// applied reads a simple type; point reads a point with which its path goes on.
+func (p *parser) applied(point func() bool) syntax.Node {
 	var n syntax.Node
 	if p.mark("(") {
 		at := p.needMark("(")
@@ -163,7 +176,7 @@ func (p *parser) simpleType() syntax.Node {
 		p.needMark(")")
 		n.At = at // the parentheses belong to its text
 	} else {
-		n = p.typePath()
+		n = p.typePath(point)
 	}
 	for p.skipMark("[") {
 		args := some(p, p.typeArg, "]")
@@ -174,27 +187,27 @@ func (p *parser) simpleType() syntax.Node {
 
 // typePath reads a name of a type, what it is selected from, or the type of a
 // path itself.
-func (p *parser) typePath() syntax.Node {
+func (p *parser) typePath(point func() bool) syntax.Node {
 	if p.key("this") {
 		this := node(syntax.XThis, p.take().At)
 		p.needMark(".")
-		return p.selected(this)
+		return p.selected(this, point)
 	}
 	first := p.name()
-	if !p.skipMark(".") {
+	if !point() {
 		return named(syntax.TName, first.Text, first.At)
 	}
-	return p.selected(named(syntax.XName, first.Text, first.At))
+	return p.selected(named(syntax.XName, first.Text, first.At), point)
 }
 
 // selected reads the rest of a path, behind a point.
-func (p *parser) selected(path syntax.Node) syntax.Node {
+func (p *parser) selected(path syntax.Node, point func() bool) syntax.Node {
 	for {
 		if p.skipKey("type") {
 			return node(syntax.TSingle, path.At, path)
 		}
 		name := p.name().Text
-		if !p.skipMark(".") {
+		if !point() {
 			return named(syntax.TSelect, name, path.At, path)
 		}
 		path = named(syntax.XSelect, name, path.At, path)
