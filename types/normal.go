@@ -124,7 +124,9 @@ func meet(l []api.Type) api.Type {
 	switch {
 	case slices.ContainsFunc(l, isKindOf(api.TNothing)) || isEmpty(groups):
 		return api.Type{Kind: api.TNothing}
-	case len(groups) > 1:
+	case groups[api.TNull] || len(groups) > 1:
+		// A TNull that stands alone is replaced as well: one of a raw type can
+		// have fields that its kind does not use.
 		l = slices.DeleteFunc(l, func(t api.Type) bool { return t.Kind == api.TNull || isReference(t.Kind) })
 		l = append(l, api.Type{Kind: api.TNull})
 	}

@@ -218,6 +218,87 @@ func TestNormalRaw(t *testing.T) {
 	})
 }
 
+// rawNull returns a TNull with fields that its kind does not use.
+func rawNull(sym, num int, name string) api.Type {
+	return api.Type{Kind: api.TNull, Sym: sym, Num: num, Name: name}
+}
+
+// P7.3: one TNull takes the place of each TNull of an intersection, whatever
+// its fields are, and of the Args of reference groups.
+func TestNormalRawNull(t *testing.T) {
+	one, two, p := rawNull(1, 0, ""), rawNull(2, 0, ""), param(0)
+	wantNormals(t, []normalCase{
+		{"two with other symbols", and(one, two), nullT},
+		{"one with a number", and(nullT, rawNull(0, 3, "")), nullT},
+		{"one with a symbol, twice", and(one, one), nullT},
+		{"symbols below 0", and(rawNull(-1, 0, ""), rawNull(0, -1, "")), nullT},
+		{"one with a name, and Any", and(rawNull(0, 0, "a"), anyT), nullT},
+		{"Any in front", and(anyT, rawNull(1, 2, "b")), nullT},
+		{"a parameter", and(one, p), and(nullT, p)},
+		{"a parameter in front", and(p, rawNull(0, 0, "a")), and(nullT, p)},
+		{"two and a parameter", and(two, p, one), and(nullT, p)},
+		{"this", and(this(box), one), and(nullT, this(box))},
+		{"a type function", and(identity, one), and(nullT, identity)},
+		{"a variable", and(variable(1), one), and(nullT, variable(1))},
+		{"String and a parameter", and(stringT, one, p), and(nullT, p)},
+		{"String", and(stringT, one), nullT},
+		{"two groups", and(array(intT), stringT, one), nullT},
+		{"Int", and(intT, one), nothingT},
+		{"Nothing", and(one, nothingT), nothingT},
+		{"a nested intersection", and(and(p, one), and(two, anyT)), and(nullT, p)},
+		{"a part of another type", array(and(one, p)), array(and(nullT, p))},
+		{"a union of two", and(or(one, two), p), and(nullT, p)},
+		{"a union with Int", and(or(intT, one), p), or(and(nullT, p), and(intT, p))},
+		{"what is applied", and(apply(identity, one), p), and(nullT, p)},
+		{"what comes of an application", apply(lambda(1, and(bound(0, 0), p)), one), and(nullT, p)},
+		{"Args that its kind does not have", and(node(api.TNull, intT), p), and(nullT, p)},
+		{"one alone", one, one},
+		{"one that is no part of an intersection", array(one), array(one)},
+		{"a union", or(one, nullT, two), or(nullT, one, two)},
+		{"a class in a union", or(class(obj), one), class(obj)},
+		{"an intersection of one", and(one), and(one)},
+		{"an intersection of 21", and(times(21, one)...), and(times(21, one)...)},
+	})
+}
+
+// renulled gives each TNull that is a part of a type other fields.
+func (d *dice) renulled(t api.Type) api.Type {
+	switch t.Kind {
+	case api.TNull:
+		return rawNull(d.roll(3), d.roll(2), []string{"", "a"}[d.roll(2)])
+	case api.TAnd, api.TOr:
+		var args []api.Type
+		for _, x := range t.Args {
+			args = append(args, d.renulled(x))
+		}
+		t.Args = args
+	}
+	return t
+}
+
+// P7.3: the fields of a TNull change nothing in a random intersection.
+func TestNormalRawNullRandom(t *testing.T) {
+	d := dice(24)
+	nulls := 0
+	for range 6000 {
+		x := and(d.mixed(1+d.roll(3)), or(d.mixed(1+d.roll(2)), nullT), d.mixed(1+d.roll(3)))
+		y := d.renulled(x)
+		want, code := Normal(x)
+		if code != api.OK {
+			continue
+		}
+		if got, code := Normal(y); code != api.OK || !same(got, want) {
+			t.Fatalf("Normal(%s) = %s, %v, want %s", show(y), show(got), code, show(want))
+		}
+		if !same(want, nothingT) && !same(x, y) {
+			nulls++
+		}
+	}
+	if nulls < 1000 {
+		t.Errorf("%d intersections with values: too few", nulls)
+	}
+}
+
 // params returns type parameters in increasing order.
 func params(from, to int) []api.Type {
 	var l []api.Type
